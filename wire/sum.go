@@ -18,19 +18,3 @@ func Sum(b []byte) uint32 {
 	}
 	return ^s
 }
-
-func putSum(b []byte, s uint32) []byte {
-	for range sumBytes {
-		b = append(b, byte(s))
-		s >>= 8
-	}
-	return b
-}
-
-func readSum(b []byte) uint32 {
-	s := uint32(0)
-	for i, x := range b {
-		s |= uint32(x) << (8 * i)
-	}
-	return s
-}

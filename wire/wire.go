@@ -5,6 +5,7 @@ import (
 	"bytes"
 
 	"rostrum/api"
+	"rostrum/little"
 )
 
 const (
@@ -61,9 +62,10 @@ func Frame(p []byte) ([]byte, api.Errno) {
 	if len(p) > api.MaxFrame {
 		return nil, api.ErrLong
 	}
-	b := putNumber(fresh(nil, longest+len(p)+sumBytes), len(p))
-	b = append(b, p...)
-	return putSum(b, Sum(p)), api.OK
+	b := append(putNumber(fresh(nil, longest+len(p)+sumBytes), len(p)), p...)
+	var sum [sumBytes]byte
+	little.Put(sum[:], int(Sum(p)))
+	return append(b, sum[:]...), api.OK
 }
 
 // Unframe is the bytes of a frame, and what stands behind it.
@@ -80,7 +82,7 @@ func Unframe(b []byte) ([]byte, []byte, api.Errno) {
 		return nil, nil, api.ErrShort
 	}
 	p, sum, behind := b[:n], b[n:n+sumBytes], b[n+sumBytes:]
-	if readSum(sum) != Sum(p) {
+	if little.Get(sum) != int(Sum(p)) {
 		return nil, nil, api.ErrSum
 	}
 	return bytes.Clone(p), bytes.Clone(behind), api.OK
