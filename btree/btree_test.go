@@ -653,6 +653,25 @@ func TestMoreLevelsThanPage0Says(t *testing.T) {
 	}
 }
 
+// TestFewerLevelsThanPage0Says: only more of them are refused.
+func TestFewerLevelsThanPage0Says(t *testing.T) {
+	x := of(t, 9, head(3, 8, 0, 5), leaf("a", "1"), leaf("k", "v"), inner(1, "b", 2))
+	x.wantRange(t, "", 9, "a", "1", "k", "v")
+	x.put(t, "c", "2")
+	x.wantValue(t, "c", "2")
+	x.delete(t, "a")
+	x.wantRange(t, "", 9, "c", "2", "k", "v")
+	x.wantHeight(t, 4)
+}
+
+// TestBytesBehindPage0: they play no part.
+func TestBytesBehindPage0(t *testing.T) {
+	x := of(t, 9, append(head(1, 2, 0, 1), 7), leaf("a", "1"))
+	x.put(t, "k", "v")
+	x.wantRange(t, "", 9, "a", "1", "k", "v")
+	x.wantIdle(t, 7)
+}
+
 func TestAChildThatIsNone(t *testing.T) {
 	for _, child := range []int{0, 9, 10, 255, 256, 4096, 65535} {
 		x := of(t, 9, head(3, 8, 0, 2), leaf("a", "1"), leaf("k", "v"), inner(1, "b", child))
