@@ -818,6 +818,51 @@ func TestWhatBecomesTheRootIsNone(t *testing.T) {
 	}
 }
 
+// TestWhatBecomesTheRootIsLookedAt: it need not be what page 0 says of it.
+func TestWhatBecomesTheRootIsLookedAt(t *testing.T) {
+	for name, c := range map[string]struct {
+		left []byte
+		want api.Errno
+	}{
+		"a leaf":                       {leaf("a", "1"), api.OK},
+		"an empty leaf":                {leaf(), api.OK},
+		"a page that was never used":   {nil, api.ErrNode},
+		"a free one":                   {free(5), api.ErrNode},
+		"no node":                      {[]byte("no node"), api.ErrNode},
+		"a leaf with a byte behind it": {append(leaf("a", "1"), 1), api.ErrNode},
+		"an inner one of one child":    {inner(4), api.ErrNode},
+		"an inner one of two":          {inner(4, "b", 5), api.ErrNode},
+		"an inner one without a child": {inner(0), api.ErrNode},
+		"an inner one that is its own": {inner(1), api.ErrNode},
+	} {
+		x := of(t, 9, head(3, 6, 0, 2), c.left, leaf("k", "v"), inner(1, "f", 2), leaf("a", "1"), leaf("b", "2"))
+		if e := btree.Delete(x.m, x.tx, "k"); e != c.want {
+			t.Errorf("%s, by its last key: %v, want %v", name, e, c.want)
+		}
+		x.wantPage(t, 0, head(1, 6, 3, 1)) // what was written so far stays
+		x.wantFree(t, 3, 2)
+		x = of(t, 9, head(6, 8, 0, 3), c.left, leaf("k", "v"), inner(1), leaf("a", "1"), leaf("b", "2"), inner(3, "f", 7))
+		x.lay(t, 7, inner(2))
+		if e := btree.Delete(x.m, x.tx, "k"); e != c.want {
+			t.Errorf("%s, two levels below: %v, want %v", name, e, c.want)
+		}
+	}
+}
+
+// TestTheNewRootWasGiven: by the calls alone.
+func TestTheNewRootWasGiven(t *testing.T) {
+	x := fresh(t, 4)
+	for _, key := range []string{"a", "b", "c", "d", "e"} {
+		x.put(t, long(key, api.MaxKey), long("v", api.MaxKey))
+	}
+	x.wantPages(t, head(3, 4, 0, 2))
+	done(t, "Give", btree.Give(x.m, x.tx, 1))
+	x.delete(t, long("e", api.MaxKey))
+	if e := btree.Delete(x.m, x.tx, long("d", api.MaxKey)); e != api.ErrNode {
+		t.Errorf("the child that is left was Given: %v", e)
+	}
+}
+
 // TestARootOfOneChild: hand-made, it goes with the next Delete.
 func TestARootOfOneChild(t *testing.T) {
 	x := tower(t, 20, leaf("a", "1", "k", "v"))

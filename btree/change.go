@@ -100,10 +100,10 @@ func (t *tree) raise(up entry) api.Errno {
 // shrink writes the leaf at the end of a way, from which a key has gone, and takes out what has become empty by that.
 func (t *tree) shrink(w way) api.Errno {
 	leaf := w.last()
-	if e := t.write(leaf.page, leaf.node); e != api.OK {
+	if e := t.write(leaf.page, leaf.node); e != api.OK || len(w) == 1 {
 		return e
 	}
-	if len(leaf.entries) == 0 && len(w) > 1 {
+	if len(leaf.entries) == 0 {
 		if e := t.takeOut(w); e != api.OK {
 			return e
 		}
@@ -131,27 +131,34 @@ func (t *tree) takeOut(w way) api.Errno {
 	}
 }
 
-// lower has the root's child be the root, as long as the root has no other one.
+// lower has the root's child be the root, as long as the root has no other one. Each root is looked at, the last one too: no way down need have led to it.
 func (t *tree) lower() api.Errno {
-	for t.levels > 1 {
+	for {
 		n, e := t.read(t.root)
-		if e != api.OK {
+		if e != api.OK || n.leaf {
 			return e
 		}
-		if n.leaf || len(n.entries) > 0 {
+		if t.levels == 1 { // there are more than page 0 says
+			return api.ErrNode
+		}
+		if len(n.entries) > 0 {
 			return api.OK
 		}
 		if !t.has(n.first) {
 			return api.ErrNode
 		}
-		old, h := t.root, t.head
-		h.root, h.levels = n.first, h.levels-1
-		if e := t.save(h); e != api.OK {
-			return e
-		}
-		if e := t.give(old); e != api.OK {
+		if e := t.replace(n.first); e != api.OK {
 			return e
 		}
 	}
-	return api.OK
+}
+
+// replace has another page be the root, one level lower, and gives the old one away.
+func (t *tree) replace(root int) api.Errno {
+	old, h := t.root, t.head
+	h.root, h.levels = root, h.levels-1
+	if e := t.save(h); e != api.OK {
+		return e
+	}
+	return t.give(old)
 }
