@@ -37,9 +37,12 @@ func within(f, d api.Datum) api.Datum {
 	if f.Text == "@" {
 		return d
 	}
-	c := api.Datum{Kind: f.Kind, Text: f.Text, Tail: f.Tail}
+	c := api.Datum{Kind: f.Kind, Text: f.Text}
 	for _, p := range f.List {
 		c.List = append(c.List, within(p, d))
+	}
+	for _, p := range f.Tail {
+		c.Tail = append(c.Tail, within(p, d))
 	}
 	return c
 }

@@ -1,6 +1,7 @@
 package scope_test
 
 import (
+	"errors"
 	"math/rand"
 	"slices"
 	"strconv"
@@ -333,5 +334,29 @@ func TestAnyData(t *testing.T) {
 	}
 	if fine < 5000 {
 		t.Errorf("only %d of these were right", fine)
+	}
+}
+
+// TestErrArgIsWhatDatumSays: it is told of just those data that may not be, most of which are too deep here.
+func TestErrArgIsWhatDatumSays(t *testing.T) {
+	r := rand.New(rand.NewSource(6))
+	forms := []string{"(f @)", "(@)", "(x @ y)", "(if 1 @ 2)", "(set! x @)", "(begin @ 1)", "(lambda () @)", "(lambda (x . y) @)", "(quote @)", "#(@)", "(f . #(@))", "(else @)", "(lambda (@) 1)"}
+	insides := []api.Datum{sym("x"), sym("y"), sym("if"), num("1"), num("2"), list(), list(sym("quote"), list(sym("x"))), {}, num("01")}
+	may := 0
+	for range 5000 {
+		d := insides[r.Intn(len(insides))]
+		for range r.Intn(2 * api.MaxDepth) {
+			d = around(t, forms[r.Intn(len(forms))], 1, d)
+		}
+		_, err := scope.Resolve([]api.Datum{sym("x"), d})
+		if errors.Is(err, api.ErrArg) == datum.Can(d) {
+			t.Fatalf("%v: %v", d, err)
+		}
+		if datum.Can(d) {
+			may++
+		}
+	}
+	if may < 1000 || may > 4000 {
+		t.Errorf("%d of 5000 may be", may)
 	}
 }

@@ -4,47 +4,15 @@ import (
 	"slices"
 
 	"rostrum/api"
-	"rostrum/datum"
 	"rostrum/expand"
 	"rostrum/fresh"
 )
 
+// Both limits are asked as the chapter says, though no datum that may be reaches them while api.MaxDepth is less than they are.
 const (
 	mostForms   = 300 // a form within so many others is too deep
 	mostLambdas = 100 // and so is a lambda within so many others
 )
-
-// canBe tells whether a form's data may be. How deep its lists are is not asked here, since expand makes forms that are deeper than what can be read: the resolver asks that. What is quoted is no form.
-func canBe(d api.Datum, room int) bool {
-	if d.Kind != api.DList {
-		return datum.Can(d)
-	}
-	if room == 0 || d.Text != "" || !canTail(d) {
-		return false
-	}
-	if isQuoted(d) {
-		return datum.Can(d.List[1])
-	}
-	for _, parts := range [2][]api.Datum{d.List, d.Tail} {
-		for _, p := range parts {
-			if !canBe(p, room-1) {
-				return false
-			}
-		}
-	}
-	return true
-}
-
-func canTail(d api.Datum) bool {
-	if len(d.Tail) == 0 {
-		return true
-	}
-	return len(d.Tail) == 1 && d.Tail[0].Kind != api.DList && len(d.List) > 0
-}
-
-func isQuoted(d api.Datum) bool {
-	return len(d.List) == 2 && len(d.Tail) == 0 && datum.Same(d.List[0], api.Datum{Kind: api.DSymbol, Text: "quote"})
-}
 
 // resolver makes the node of one form that stands outside. It keeps the first fault, and all its calls do nothing behind that: so whoever calls them need not ask.
 type resolver struct {

@@ -1,6 +1,7 @@
 package scope_test
 
 import (
+	"errors"
 	"slices"
 	"strings"
 	"testing"
@@ -90,6 +91,14 @@ func TestFirstFault(t *testing.T) {
 	}
 }
 
+// wantWhy holds the fault of a form that may be too deep for Resolve.
+func wantWhy(t *testing.T, what string, d api.Datum, why api.Errno) {
+	t.Helper()
+	if _, got := scope.Form(d); got != why {
+		t.Errorf("%.300s: %v, want %v", what, got, why)
+	}
+}
+
 func TestDeepForms(t *testing.T) {
 	for form, each := range map[string]int{"(f @)": 1, "(@)": 1, "(if 1 @ 2)": 1, "(if 1 2 @)": 1, "(set! x @)": 1, "(begin @)": 1, "(begin 1 @)": 1, "(f (if 1 2 @))": 2, "(begin (set! x (f 1 @)))": 3} {
 		for _, inside := range []string{"x", "5", "'(1 (2 (3)))"} {
@@ -98,83 +107,97 @@ func TestDeepForms(t *testing.T) {
 			for range 299 % each {
 				deep = list(deep)
 			}
-			if n, err := scope.Resolve([]api.Datum{deep}); err != nil || len(n) != 1 {
-				t.Errorf("%s within 299 of %s: %v", inside, form, err)
-			}
-			wantFaultOf(t, form, []api.Datum{num("1"), list(deep)}, 1, api.ErrDeep)
-			wantFaultOf(t, form, []api.Datum{list(sym("define"), sym("x"), deep)}, 0, api.ErrDeep)
-			if each > 1 {
-				continue
-			}
-			if _, err := scope.Resolve([]api.Datum{list(sym("define"), sym("x"), around(t, form, 298, d))}); err != nil {
-				t.Errorf("%s within a define and 298 of %s: %v", inside, form, err)
+			wantWhy(t, inside+" within 299 of "+form, deep, api.OK)
+			wantWhy(t, inside+" within 300 of "+form, list(deep), api.ErrDeep)
+			wantWhy(t, inside+" within a define and 299 of "+form, list(sym("define"), sym("x"), deep), api.ErrDeep)
+			if each == 1 {
+				wantWhy(t, inside+" within a define and 298 of "+form, list(sym("define"), sym("x"), around(t, form, 298, d)), api.OK)
 			}
 		}
 	}
 	// that is asked ahead of all else of a form, and behind all of those around it
-	for _, inside := range []string{"()", "if", "(if)", "(else)", "#(1)", "(lambda (x x) 1)", "(define x 1)"} {
-		wantFaultOf(t, inside, []api.Datum{around(t, "(f @)", 300, read(t, inside)[0])}, 0, api.ErrDeep)
-		_, err := scope.Resolve([]api.Datum{around(t, "(f @)", 299, read(t, inside)[0])})
-		if f, ok := err.(api.Fault); !ok || f.Why == api.ErrDeep {
-			t.Errorf("%s within 299: %v", inside, err)
-		}
+	for inside, why := range map[string]api.Errno{"()": api.ErrSyntax, "if": api.ErrBind, "(if)": api.ErrSyntax, "(else)": api.ErrBind, "#(1)": api.ErrSyntax, "(lambda (x x) 1)": api.ErrSyntax, "(define x 1)": api.ErrSyntax} {
+		wantWhy(t, inside+" within 300", around(t, "(f @)", 300, read(t, inside)[0]), api.ErrDeep)
+		wantWhy(t, inside+" within 299", around(t, "(f @)", 299, read(t, inside)[0]), why)
 	}
-	wantFaultOf(t, "a form ahead", []api.Datum{list(list(), around(t, "(f @)", 400, sym("x")))}, 0, api.ErrSyntax)
-	wantFaultOf(t, "a form behind", []api.Datum{list(around(t, "(f @)", 400, sym("x")), list())}, 0, api.ErrDeep)
-	wantFaultOf(t, "very deep", []api.Datum{around(t, "(f @)", 1<<16, sym("x"))}, 0, api.ErrDeep)
+	wantWhy(t, "a form ahead", list(list(), around(t, "(f @)", 400, sym("x"))), api.ErrSyntax)
+	wantWhy(t, "a form behind", list(around(t, "(f @)", 400, sym("x")), list()), api.ErrDeep)
+	wantWhy(t, "very deep", around(t, "(f @)", 1<<16, sym("x")), api.ErrDeep)
 	// an own name at a call's head is that call's fault
-	wantFaultOf(t, "a head", []api.Datum{around(t, "(f @)", 299, list(sym("let")))}, 0, api.ErrBind)
-	wantFaultOf(t, "a head", []api.Datum{around(t, "(f @)", 299, list(sym("f")))}, 0, api.ErrDeep)
-	if _, err := scope.Resolve([]api.Datum{around(t, "(f @)", 299, list(sym("quote"), sym("x")))}); err != nil {
-		t.Errorf("what is quoted is no form: %v", err)
-	}
+	wantWhy(t, "an own name as a head", around(t, "(f @)", 299, list(sym("let"))), api.ErrBind)
+	wantWhy(t, "a head", around(t, "(f @)", 299, list(sym("f"))), api.ErrDeep)
+	wantWhy(t, "what is quoted is no form", around(t, "(f @)", 299, list(sym("quote"), sym("x"))), api.OK)
 }
 
 func TestDeepLambdas(t *testing.T) {
 	for _, form := range []string{"(lambda () @)", "(lambda x @)", "(lambda (a . b) @)", "(f (lambda () @))"} {
 		for _, inside := range []string{"x", "(f)", "5"} {
-			d := around(t, form, 100, read(t, inside)[0])
-			if _, err := scope.Resolve([]api.Datum{d}); err != nil {
-				t.Errorf("%s within 100 of %s: %v", inside, form, err)
-			}
+			wantWhy(t, inside+" within 100 of "+form, around(t, form, 100, read(t, inside)[0]), api.OK)
 		}
-		wantFaultOf(t, form, []api.Datum{around(t, form, 100, read(t, "(lambda () 1)")[0])}, 0, api.ErrDeep)
-		wantFaultOf(t, form, []api.Datum{around(t, form, 101, sym("x"))}, 0, api.ErrDeep)
+		wantWhy(t, form, around(t, form, 100, read(t, "(lambda () 1)")[0]), api.ErrDeep)
+		wantWhy(t, form, around(t, form, 101, sym("x")), api.ErrDeep)
 	}
 	// that is asked behind its names, and ahead of what is in it
 	for inside, why := range map[string]api.Errno{"(lambda (x x) 1)": api.ErrSyntax, "(lambda (if) 1)": api.ErrBind, "(lambda 1 1)": api.ErrSyntax, "(lambda (x))": api.ErrSyntax, "(lambda (x) ())": api.ErrDeep, "(lambda (x) if)": api.ErrDeep, "(lambda (" + sixteen + " q) 1)": api.ErrSyntax} {
-		wantFaultOf(t, inside, []api.Datum{around(t, "(lambda () @)", 100, read(t, inside)[0])}, 0, why)
+		wantWhy(t, inside, around(t, "(lambda () @)", 100, read(t, inside)[0]), why)
 	}
 	// lambdas beside each other are not within each other
-	if _, err := scope.Resolve([]api.Datum{around(t, "(lambda () @)", 99, read(t, "("+rep("(lambda () 1) ", 200)+")")[0])}); err != nil {
-		t.Errorf("200 lambdas in a call: %v", err)
-	}
-	n, err := scope.Resolve([]api.Datum{list(sym("lambda"), list(sym("x")), around(t, "(lambda (y) @)", 99, sym("x")))})
-	if err != nil {
-		t.Fatal(err)
-	}
-	node := n[0]
+	wantWhy(t, "200 lambdas in a call", around(t, "(lambda () @)", 99, read(t, "("+rep("(lambda () 1) ", 200)+")")[0]), api.OK)
+	node, why := scope.Form(list(sym("lambda"), list(sym("x")), around(t, "(lambda (y) @)", 99, sym("x"))))
 	for node.Op == api.NLambda {
 		node = node.Kids[0]
 	}
-	if text(node) != "[local 99 0]" {
-		t.Errorf("the outermost of 100 lambdas: %s", text(node))
+	if why != api.OK || text(node) != "[local 99 0]" {
+		t.Errorf("the outermost of 100 lambdas: %s, %v", text(node), why)
 	}
 }
 
-// TestDeepCore: what expand makes may be deeper than what can be read.
+// TestAsDeepAsDataMayBe: a form may be as deep as a datum, and no deeper, wherever in it the depth is.
+func TestAsDeepAsDataMayBe(t *testing.T) {
+	for _, form := range []string{"(f @)", "(@)", "(@ 1)", "(if @ 1 2)", "(if 1 2 @)", "(set! x @)", "(begin 1 @)", "(lambda x @)"} {
+		for inside, depth := range map[string]int{"x": 0, "5": 0, "'x": 1, "'(1 (2))": 3, "'(1 . #(2))": 3, "'#(#())": 3, "(lambda (x) x)": 2} {
+			d := read(t, inside)[0]
+			fits := around(t, form, api.MaxDepth-depth, d)
+			if n, err := scope.Resolve([]api.Datum{fits}); err != nil || len(n) != 1 {
+				t.Errorf("%s of depth MaxDepth in %s: %v", inside, form, err)
+			}
+			deep := around(t, form, api.MaxDepth-depth+1, d)
+			wantFaultOf(t, form, []api.Datum{deep}, 0, api.ErrArg)
+			wantFaultOf(t, form, []api.Datum{num("1"), fits, deep}, 2, api.ErrArg)
+			wantFaultOf(t, form, []api.Datum{list(sym("define"), sym("x"), fits)}, 0, api.ErrArg)
+			wantFaultOf(t, "behind a wrong one", []api.Datum{list(), deep}, 0, api.ErrSyntax)
+		}
+	}
+	for in, lists := range map[string]int{"(quote @)": 1, "(quote #(@))": 2, "(quote (1 . #(@)))": 3, "(if @)": 1, "(else @)": 1, "(set! @ 1)": 1, "(lambda @ 1)": 1, "(lambda (x) 1 @)": 1, "(lambda (x @) 1)": 2, "(lambda (x . #(@)) 1)": 3, "(f . #(@))": 2, "#(@)": 1} {
+		for _, part := range []string{"(@)", "#(@)"} {
+			fits := around(t, in, 1, around(t, part, api.MaxDepth-lists, sym("x")))
+			if _, err := scope.Resolve([]api.Datum{fits}); errors.Is(err, api.ErrArg) {
+				t.Errorf("%s of depth MaxDepth: %v", in, err)
+			}
+			deep := around(t, in, 1, around(t, part, api.MaxDepth-lists+1, sym("x")))
+			wantFaultOf(t, in, []api.Datum{deep}, 0, api.ErrArg)
+		}
+	}
+	for _, n := range []int{api.MaxDepth + 1, 100, 101, 299, 300, 301, 1 << 16} {
+		wantFaultOf(t, "forms within each other", []api.Datum{around(t, "(f @)", n, sym("x"))}, 0, api.ErrArg)
+		wantFaultOf(t, "lambdas within each other", []api.Datum{around(t, "(lambda () @)", n, sym("x"))}, 0, api.ErrArg)
+	}
+}
+
+// TestDeepCore: what expand makes may be deeper than a datum may be.
 func TestDeepCore(t *testing.T) {
-	for _, s := range []string{"(or " + rep("a ", 90) + ")", "(cond " + rep("(a b) ", 150) + ")", "(let* (" + rep("(a b) ", 90) + ") c)", "(and " + rep("a ", 190) + ")", rep("#(", 64) + rep(")", 64)} {
+	for _, s := range []string{"(or " + rep("a ", 90) + ")", "(cond " + rep("(a b) ", 150) + ")", "(let* (" + rep("(a b) ", 90) + ") c)", "(and " + rep("a ", 190) + ")", rep("#(", 64) + rep(")", 64), "1 (or " + rep("a ", 102) + ")", "1 (let* (" + rep("(a b) ", 101) + ") c)"} {
 		l := core(t, s)
-		if datum.Can(l[0]) {
+		if datum.Can(l[len(l)-1]) {
 			t.Errorf("%.30s .. is not deep", s)
 		}
-		if n, err := scope.Resolve(l); err != nil || len(n) != 1 {
+		wantFaultOf(t, s, l, len(l)-1, api.ErrArg)
+	}
+	for _, s := range []string{"(or " + rep("a ", 20) + ")", "(cond " + rep("(a b) ", 60) + ")", "(let* (" + rep("(a b) ", 30) + ") c)", "(and " + rep("a ", 60) + ")", rep("#(", 63) + rep(")", 63)} {
+		if n, err := scope.Resolve(core(t, s)); err != nil || len(n) != 1 {
 			t.Errorf("%.30s ..: %v", s, err)
 		}
 	}
-	wantFaultOf(t, "or", core(t, "1 (or "+rep("a ", 102)+")"), 1, api.ErrDeep)
-	wantFaultOf(t, "let*", core(t, "1 (let* ("+rep("(a b) ", 101)+") c)"), 1, api.ErrDeep)
 }
 
 func TestDataThatMayNotBe(t *testing.T) {
@@ -184,17 +207,14 @@ func TestDataThatMayNotBe(t *testing.T) {
 		{Kind: api.DList, Text: "a"}, {Kind: api.DList, Tail: []api.Datum{a}}, dotted(list(), a), dotted(list(a), a), {Kind: api.DList, List: []api.Datum{a}, Tail: []api.Datum{a, a}}, dotted(num("01"), a),
 		{Kind: api.DVector, Text: "a"}, {Kind: api.DVector, List: []api.Datum{a}, Tail: []api.Datum{a}}, {Kind: api.DVector, List: []api.Datum{{}}},
 		{Kind: api.DSymbol, Text: "a", List: []api.Datum{a}}, {Kind: api.DString, Text: "a", Tail: []api.Datum{a}}, {Kind: api.DList, Text: "a", List: []api.Datum{sym("quote"), a}},
-		list(sym("quote"), around(t, "(@)", 65, a)), list(sym("quote"), around(t, "#(@)", 65, a)), around(t, "#(@)", 65, a),
+		list(sym("quote"), around(t, "(@)", 64, a)), list(sym("quote"), around(t, "#(@)", 64, a)), around(t, "#(@)", 65, a), around(t, "(@)", 65, a),
 	}
 	for _, d := range bad {
-		for _, in := range []api.Datum{d, list(a, d), list(d), list(sym("quote"), d), list(sym("quote"), list(d)), list(sym("if"), d), list(list(), d), list(sym("lambda"), d, a), list(sym("lambda"), list(a, d), a), list(sym("else"), d), list(sym("define"), d, a), around(t, "(f @)", 299, d), around(t, "(f @)", 400, list(sym("quote"), d))} {
+		for _, in := range []api.Datum{d, list(a, d), list(d), list(sym("quote"), d), list(sym("quote"), list(d)), list(sym("if"), d), list(list(), d), list(sym("lambda"), d, a), list(sym("lambda"), list(a, d), a), list(sym("else"), d), list(sym("define"), d, a), around(t, "(f @)", 50, d), around(t, "(f @)", 60, list(sym("quote"), d))} {
 			wantFaultOf(t, "a datum that may not be", []api.Datum{in, list()}, 0, api.ErrArg)
 			wantFaultOf(t, "behind others", []api.Datum{a, a, in}, 2, api.ErrArg)
 			wantFaultOf(t, "behind a fault", []api.Datum{list(), in}, 0, api.ErrSyntax)
 		}
-	}
-	if _, err := scope.Resolve([]api.Datum{list(sym("quote"), around(t, "(@)", 64, a))}); err != nil {
-		t.Errorf("what is quoted may be as deep as a datum: %v", err)
 	}
 }
 
