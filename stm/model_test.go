@@ -15,7 +15,7 @@ import (
 
 type written struct {
 	bytes string
-	by    *modelTx
+	is    bool // something was written then, which may be empty
 }
 
 type model struct {
@@ -37,7 +37,7 @@ var names = []string{"a", "b", "c", "d", "abcdefghijk"}
 func (m *model) last(name string, time int) (string, int) {
 	at := slices.Index(names, name)
 	for v := time; v > 0; v-- {
-		if w := m.past[v][at]; w.by != nil {
+		if w := m.past[v][at]; w.is {
 			return w.bytes, v
 		}
 	}
@@ -115,14 +115,14 @@ func (m *model) publish(x *modelTx) {
 	}
 	m.past = append(m.past, make([]written, len(names)))
 	for name, b := range x.writes {
-		m.past[m.now()][slices.Index(names, name)] = written{b, x}
+		m.past[m.now()][slices.Index(names, name)] = written{b, true}
 	}
 }
 
 func (m *model) slots() string {
 	var l []api.Slot
 	for _, name := range slices.Sorted(slices.Values(names)) {
-		if b, v := m.last(name, m.now()); v > 0 || b != "" {
+		if b, v := m.last(name, m.now()); m.past[v][slices.Index(names, name)].is {
 			l = append(l, api.Slot{Name: name, Version: v, Bytes: []byte(b)})
 		}
 	}
@@ -157,8 +157,9 @@ func TestAsTheModel(t *testing.T) {
 		var first []string
 		for i, name := range names {
 			if r.Intn(2) == 0 {
-				m.past[0][i].bytes = "first " + name
-				first = append(first, name+"=first "+name)
+				b := []string{"", "first " + name}[r.Intn(2)]
+				m.past[0][i] = written{b, true}
+				first = append(first, name+"="+b)
 			}
 		}
 		s := space(t, first...)
@@ -175,7 +176,7 @@ func TestAsTheModel(t *testing.T) {
 					continue
 				}
 			}
-			name, bytes := names[r.Intn(len(names))], fmt.Sprint(i)
+			name, bytes := names[r.Intn(len(names))], []string{"", fmt.Sprint(i)}[min(1, r.Intn(5))]
 			was := x.phase
 			b, e := call(x.tx, what, name, bytes)
 			c, why := m.do(x, what, name, bytes)

@@ -22,35 +22,55 @@ func TestNew(t *testing.T) {
 	wantSlots(t, "an empty list", s, 0, "")
 }
 
-// TestSlotsWithoutBytes: one that never got any is not told; it is as one that there is not.
-func TestSlotsWithoutBytes(t *testing.T) {
+// TestSlotsOfEmptyBytes: those that New was given, and those that were published, are told, whatever their bytes.
+func TestSlotsOfEmptyBytes(t *testing.T) {
 	for _, b := range [][]byte{nil, {}} {
-		s, e := stm.New([]api.Slot{{Name: "x", Bytes: b}, {Name: "y", Bytes: []byte("1")}})
-		want(t, "New", e, api.OK)
-		wantSlots(t, "New", s, 0, "y.0=1")
-		wantGet(t, "New", begin(t, s), "x", "")
+		s, e := stm.New([]api.Slot{{Name: "z", Version: 5, Bytes: b}})
+		want(t, "New of one", e, api.OK)
+		wantSlots(t, "New of one", s, 0, "z.0=")
+		s, e = stm.New([]api.Slot{{Name: "z", Bytes: b}, {Name: "a", Bytes: []byte("1")}, {Name: "m", Bytes: b}})
+		want(t, "New of three", e, api.OK)
+		wantSlots(t, "New of three", s, 0, "a.0=1 m.0= z.0=")
+		x := begin(t, s)
+		wantGet(t, "New of three", x, "z", "")
+		put(t, x, "z=2", "a=")
+		commit(t, x)
+		wantSlots(t, "changed", s, 1, "a.1= m.0= z.1=2")
+		x = begin(t, s)
+		if e := x.Put("b", b); e != api.OK {
+			t.Fatalf("Put: %v", e)
+		}
+		commit(t, x)
+		wantSlots(t, "published", s, 2, "a.1= b.2= m.0= z.1=2")
 	}
-	s := space(t)
+}
+
+// TestSlotsThatNeverGotBytes: names that were only read, locked, or written by one that was not published.
+func TestSlotsThatNeverGotBytes(t *testing.T) {
+	s := space(t, "z=")
 	x := begin(t, s)
 	wantGet(t, "not there", x, "a", "")
-	put(t, x, "b=1")
+	put(t, x, "b=1", "c=")
+	wantSlots(t, "read and written", s, 0, "z.0=")
 	want(t, "Lock", x.Lock(), api.OK)
-	wantSlots(t, "read and locked", s, 0, "")
+	wantSlots(t, "locked", s, 0, "z.0=")
+	want(t, "Check", x.Check(), api.OK)
+	wantSlots(t, "checked", s, 0, "z.0=")
 	want(t, "Abort", x.Abort(), api.OK)
-	wantSlots(t, "given up", s, 0, "")
-	// what was published without bytes has a version, and is told
+	wantSlots(t, "given up", s, 0, "z.0=")
 	x = begin(t, s)
-	put(t, x, "c=")
+	put(t, x, "d=1", "e=")
+	want(t, "Drop", x.Drop(), api.OK)
 	commit(t, x)
-	wantSlots(t, "published without bytes", s, 1, "c.1=")
-	// and so is what had some
-	x = begin(t, s)
-	put(t, x, "d=1")
-	commit(t, x)
-	x = begin(t, s)
-	put(t, x, "d=")
-	commit(t, x)
-	wantSlots(t, "had some", s, 3, "c.1= d.3=")
+	wantSlots(t, "dropped", s, 0, "z.0=")
+	x, y := begin(t, s), begin(t, s)
+	put(t, x, "f=")
+	put(t, y, "f=1", "g=")
+	want(t, "Lock", x.Lock(), api.OK)
+	want(t, "Lock of another one", y.Lock(), api.ErrClash)
+	wantSlots(t, "clashed", s, 0, "z.0=")
+	wantGet(t, "only read", begin(t, s), "g", "")
+	wantSlots(t, "only read", s, 0, "z.0=")
 }
 
 func TestNewRefuses(t *testing.T) {
