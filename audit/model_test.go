@@ -7,6 +7,8 @@ import (
 
 	"rostrum/api"
 	"rostrum/audit"
+	"rostrum/code"
+	"rostrum/vm"
 )
 
 // P24.1
@@ -198,6 +200,7 @@ func great(t *testing.T, size int) string {
 func TestSessionThatIsTooGreat(t *testing.T) {
 	m := audit.New()
 	wantReply(t, m, running("a", great(t, 40*1400)), suspendedWith("a", 1, "1"))
+	wantReply(t, m, running("b", great(t, 40*1400+1)), failedWith("b", api.ErrFull))
 	wantReply(t, m, running("b", "(root-set! 'x 1)"+great(t, 40*1400+1)), failedWith("b", api.ErrFull))
 	wantModel(t, "too great", m, 1)
 	wantReply(t, m, resuming("c", 1, "5"), doneWith("c", "5"))
@@ -230,6 +233,42 @@ func TestSaveFails(t *testing.T) {
 	m := audit.New()
 	wantReply(t, m, running("a", text), failedWith("a", api.ErrMemory))
 	wantModel(t, "not saved", m, 0)
+}
+
+// crowded is a program that keeps so many great vectors and one of so many fields, and then makes others that it does not keep.
+func crowded(vectors, fields int) string {
+	text := "(define (f n l) (if (= n 0) l (f (- n 1) (cons (make-vector 990 0) l)))) (define l (f %d '())) (define m (make-vector %d 0))"
+	return fmt.Sprintf(text+"(define (g n) (if (= n 0) 0 (begin (make-vector 990 0) (g (- n 1))))) (g 12)", vectors, fields)
+}
+
+// firstTooMany is how many fields are too many for a heap, of those from a count on.
+func firstTooMany(t *testing.T, vectors, from, young, old int) int {
+	t.Helper()
+	for n := from; n < 1000; n++ {
+		c, err := code.Source(crowded(vectors, n))
+		if err != nil {
+			t.Fatal(err)
+		}
+		m, e := vm.New(c, young, old)
+		want(t, "vm.New", e, api.OK)
+		if m.Run(fuel, nil) == api.Failed {
+			return n
+		}
+	}
+	return 1000
+}
+
+// TestRoom: a machine has room for 4000 young cells and for 40000 old ones, and not for one more. (One of these programs fills the young ones, the other one the old ones.)
+func TestRoom(t *testing.T) {
+	for vectors, from := range map[int]int{39: 850, 40: 150} {
+		n := firstTooMany(t, vectors, from, young, old)
+		less, more := firstTooMany(t, vectors, from, young-1, old-1), firstTooMany(t, vectors, from, young+1, old+1)
+		if less != n-1 || more != n+1 {
+			t.Fatalf("%d, with less room %d, with more %d", n, less, more)
+		}
+		wantReply(t, audit.New(), running("a", crowded(vectors, n-1)), doneWith("a", "0"))
+		wantReply(t, audit.New(), running("a", crowded(vectors, n)), failedWith("a", api.ErrMemory))
+	}
 }
 
 // TestPlainModels: nil, and one that no call made.

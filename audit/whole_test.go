@@ -147,16 +147,18 @@ func (x *life) explained() {
 	if !slices.Equal(told, x.sent) {
 		x.t.Fatalf("sent were %v, and the journal has %v", x.sent, told)
 	}
-	x.wantState(x.model())
+	m := x.model()
+	x.wantState(m, m.Sessions())
 }
 
-func (x *life) wantState(m *audit.Model) {
+// wantState: the server has a model's roots, and so many sessions.
+func (x *life) wantState(m *audit.Model, sessions int) {
 	x.t.Helper()
 	same := slices.EqualFunc(m.Roots(), x.s.Roots(), func(a, b api.Slot) bool {
 		return a.Name == b.Name && a.Version == b.Version && bytes.Equal(a.Bytes, b.Bytes)
 	})
-	if !same || m.Sessions() != len(x.s.Sessions()) {
-		x.t.Fatalf("roots %v, sessions %v; the model has %v, %d", x.s.Roots(), x.s.Sessions(), m.Roots(), m.Sessions())
+	if !same || len(x.s.Sessions()) != sessions {
+		x.t.Fatalf("roots %v, sessions %v; want %v, %d", x.s.Roots(), x.s.Sessions(), m.Roots(), sessions)
 	}
 }
 
@@ -268,10 +270,10 @@ func TestTornCommit(t *testing.T) {
 			y.asked = x.asked
 			if _, kept := y.asks(x.asked["b"], true); kept {
 				met[true]++
-				y.wantState(behind)
+				y.wantState(behind, behind.Sessions())
 			} else {
 				met[false]++
-				y.wantState(ahead)
+				y.wantState(ahead, ahead.Sessions())
 				if whole {
 					t.Fatal("all was durable, and it is not there")
 				}
@@ -279,7 +281,7 @@ func TestTornCommit(t *testing.T) {
 			if got, ok := y.asks(x.asked["b"], false); !ok || got != reply {
 				t.Fatalf("%v, %v; want %v", got, ok, reply)
 			}
-			y.wantState(behind)
+			y.wantState(behind, behind.Sessions())
 		}
 	}
 	if met[true] < 10 || met[false] < 10 {
